@@ -8,45 +8,13 @@ import (
 	"unsafe"
 
 	"ostiary/api"
+	"ostiary/sample"
 )
 
-// source tells numbers, the same ones in each run.
-type source uint64
+var named, words = sample.Named, sample.Words
 
-func (s *source) below(n int) int {
-	*s ^= *s << 13
-	*s ^= *s >> 7
-	*s ^= *s << 17
-	return int(uint64(*s) >> 11 % uint64(n))
-}
-
-func newSource() *source {
-	s := source(88172645463325252)
-	return &s
-}
-
-// named puts labels together, whatever they are.
-func named(labels ...string) string {
-	n := ""
-	for _, l := range labels {
-		n += string([]byte{byte(len(l))}) + l
-	}
-	return n + "\x00"
-}
-
-// sized tells a name of so many bytes, at least 1, but not 2.
-func sized(size int) string {
-	var l []string
-	for left := size - 1; left > 0; {
-		take := min(left, 64)
-		if left-take == 1 {
-			take--
-		}
-		l = append(l, strings.Repeat("x", take-1))
-		left -= take
-	}
-	return named(l...)
-}
+// sized tells a name of so many bytes, in small letters.
+func sized(size int) string { return strings.ToLower(sample.Sized(size)) }
 
 // parted parts bytes into labels from the front on by taking them off, and tells whether they are a name, were it not for how long they are.
 func parted(n string) ([]string, bool) {
@@ -71,21 +39,6 @@ func wrongWith(n string) api.Errno {
 		return api.ErrLong
 	}
 	return api.OK
-}
-
-// words tells all texts of these letters up to so many.
-func words(letters string, most int) []string {
-	l := []string{""}
-	for from := 0; most > 0; most-- {
-		to := len(l)
-		for _, w := range l[from:to] {
-			for i := range len(letters) {
-				l = append(l, w+letters[i:i+1])
-			}
-		}
-		from = to
-	}
-	return l
 }
 
 // noNames are bytes that are no name, of each kind.
@@ -541,13 +494,13 @@ func TestAnswersAreNew(t *testing.T) {
 // Rule 2, P1: all calls end at any bytes, and tell nothing beside an error.
 func TestCalm(t *testing.T) {
 	const letters = "\x00\x01\x02\x03\x3f\x40\xc0\xffaB.\\ 059"
-	s := newSource()
+	s := sample.New()
 	for range 20000 {
-		b := make([]byte, s.below(12))
+		b := make([]byte, s.Below(12))
 		for i := range b {
-			b[i] = letters[s.below(len(letters))]
+			b[i] = letters[s.Below(len(letters))]
 		}
-		n, m := string(b), string(b[s.below(len(b)+1):])
+		n, m := string(b), string(b[s.Below(len(b)+1):])
 		Same(n, m)
 		Within(n, m)
 		Compare(n, m)

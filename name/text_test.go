@@ -7,6 +7,7 @@ import (
 	"testing"
 
 	"ostiary/api"
+	"ostiary/sample"
 )
 
 // written is one byte of a label as it may stand in a text, or the point behind one.
@@ -230,13 +231,13 @@ func TestLastPoint(t *testing.T) {
 // P4.4: a name's text is read as it.
 func TestTextBack(t *testing.T) {
 	names := some()
-	s := newSource()
+	s := sample.New()
 	for range 3000 {
 		var l []string
-		for left := 254; left > 1 && s.below(6) > 0; {
-			b := make([]byte, 1+s.below(min(63, left-1)))
+		for left := 254; left > 1 && s.Below(6) > 0; {
+			b := make([]byte, 1+s.Below(min(63, left-1)))
 			for i := range b {
-				b[i] = byte(s.below(256))
+				b[i] = byte(s.Below(256))
 			}
 			l = append(l, string(b))
 			left -= len(b) + 1
@@ -254,11 +255,11 @@ func TestTextBack(t *testing.T) {
 // P4.4: what is read, told, and read again, is the same name; what is told of it is told again as it was.
 func TestParseBack(t *testing.T) {
 	parts := []string{"a", "Z", "0", "9", "-", "\\.", "\\\\", "\\a", "\\!", "\\000", "\\010", "\\046", "\\065", "\\092", "\\255", "!", "~", ".", "."}
-	s := newSource()
+	s := sample.New()
 	for range 20000 {
 		text, last := "", "."
-		for range 1 + s.below(20) {
-			if p := parts[s.below(len(parts))]; p != "." || last != "." {
+		for range 1 + s.Below(20) {
+			if p := parts[s.Below(len(parts))]; p != "." || last != "." {
 				text, last = text+p, p
 			}
 		}

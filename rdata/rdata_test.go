@@ -8,72 +8,10 @@ import (
 
 	"ostiary/api"
 	"ostiary/name"
+	"ostiary/sample"
 )
 
-// source tells numbers, the same ones in each run.
-type source uint64
-
-func newSource() *source {
-	s := source(88172645463325252)
-	return &s
-}
-
-func (s *source) below(n int) int {
-	*s ^= *s << 13
-	*s ^= *s >> 7
-	*s ^= *s << 17
-	return int(uint64(*s) >> 11 % uint64(n))
-}
-
-// bytes tells so many of any kind.
-func (s *source) bytes(n int) string {
-	b := make([]byte, n)
-	for i := range b {
-		b[i] = byte(s.below(256))
-	}
-	return string(b)
-}
-
-// named puts labels together.
-func named(labels ...string) string {
-	n := ""
-	for _, l := range labels {
-		n += string([]byte{byte(len(l))}) + l
-	}
-	return n + "\x00"
-}
-
-// sized tells a name of so many bytes; there is none of 2.
-func sized(size int) string {
-	var l []string
-	for left := size - 1; left > 0; {
-		take := min(left, 64)
-		if left-take == 1 {
-			take--
-		}
-		l = append(l, strings.Repeat("X", take-1))
-		left -= take
-	}
-	return named(l...)
-}
-
-// words tells all rows of these letters up to so many.
-func words(letters string, most int) []string {
-	l := []string{""}
-	for from := 0; most > 0; most-- {
-		to := len(l)
-		for _, w := range l[from:to] {
-			for i := range len(letters) {
-				l = append(l, w+letters[i:i+1])
-			}
-		}
-		from = to
-	}
-	return l
-}
-
-// filler tells so many bytes that are no name.
-func filler(n int) string { return strings.Repeat("\xff", n) }
+var named, sized, filler, words = sample.Named, sample.Sized, sample.Filler, sample.Words
 
 // table is all types of the chapter's table; others are types that are not in it, each beside one that is, or at an edge.
 var (

@@ -8,6 +8,7 @@ import (
 	"testing"
 
 	"ostiary/api"
+	"ostiary/sample"
 	"ostiary/wire"
 )
 
@@ -275,25 +276,25 @@ func TestReadEachShort(t *testing.T) {
 
 // P6.2: of random messages, in which names are often told by pointers, at each place.
 func TestReadRandom(t *testing.T) {
-	s := newSource()
+	s := sample.New()
 	good := 0
 	for range 3000 {
 		var b []byte
 		for len(b) < 60 {
-			switch s.below(8) {
+			switch s.Below(8) {
 			case 0:
-				b = append(b, s.bytes(1+s.below(20))...)
+				b = append(b, s.Bytes(1+s.Below(20))...)
 			case 1, 2:
-				b = append(b, 192, byte(s.below(len(b)+1)))
+				b = append(b, 192, byte(s.Below(len(b)+1)))
 			case 3:
 				b = append(b, 0)
 			default:
-				b = append(b, "\x01b\x02cd\x01\x00"[:2+s.below(6)]...)
+				b = append(b, "\x01b\x02cd\x01\x00"[:2+s.Below(6)]...)
 			}
 		}
 		for range 100 {
-			at, size := s.below(len(b)), s.below(40)
-			kind := []int{1, 2, 5, 6, 12, 15, 16, 28, 999}[s.below(9)]
+			at, size := s.Below(len(b)), s.Below(40)
+			kind := []int{1, 2, 5, 6, 12, 15, 16, 28, 999}[s.Below(9)]
 			readsAs(t, b, at, size, kind)
 			if _, f := told(b, at, size, kind); f.Err == api.OK {
 				good++

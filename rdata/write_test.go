@@ -10,6 +10,7 @@ import (
 
 	"ostiary/api"
 	"ostiary/name"
+	"ostiary/sample"
 	"ostiary/wire"
 )
 
@@ -220,56 +221,19 @@ func TestWriteHalf(t *testing.T) {
 	}
 }
 
-// anyName tells a name of a few labels that come often, now and then a long one.
-func anyName(s *source) string {
-	if s.below(20) == 0 {
-		return sized(255 - 2*s.below(120))
-	}
-	var l []string
-	for range s.below(5) {
-		l = append(l, []string{"a", "b", "A", "www", "Example", "\x00", "a\x01b", "\xc0\x0c", string([]byte{byte(s.below(256))})}[s.below(9)])
-	}
-	return named(l...)
-}
-
-// anyData tells a type and data of it.
-func anyData(s *source) (int, string) {
-	kind := append(slices.Clone(table), 0, 999, 65535)[s.below(11)]
-	switch kind {
-	case 1:
-		return kind, s.bytes(4)
-	case 28:
-		return kind, s.bytes(16)
-	case 2, 5, 12:
-		return kind, anyName(s)
-	case 15:
-		return kind, s.bytes(2) + anyName(s)
-	case 6:
-		return kind, anyName(s) + anyName(s) + s.bytes(20)
-	case 16:
-		data := "\x00"
-		for range s.below(4) {
-			n := s.below(256)
-			data += string([]byte{byte(n)}) + s.bytes(n)
-		}
-		return kind, data
-	}
-	return kind, s.bytes(s.below(60))
-}
-
 // P6.5: data that are written are read as they were, wherever they stand, whatever stands between; and none have more bytes than they are.
 func TestThereAndBack(t *testing.T) {
 	type laid struct {
 		at, size, t int
 		data        string
 	}
-	s := newSource()
+	s := sample.New()
 	for round := range 200 {
 		p, q := wire.New(), wire.New()
-		b := []byte(s.bytes(67000))
+		b := []byte(s.Bytes(67000))
 		var all []laid
-		for at := s.below(40); at < 65000; {
-			kind, data := anyData(s)
+		for at := s.Below(40); at < 65000; {
+			kind, data := s.Data()
 			told, e := Write(p, at, kind, data)
 			want, _ := written(q, at, kind, data)
 			if e != api.OK || string(told) != want || len(told) > len(data) || p.Known() != q.Known() {
@@ -277,7 +241,7 @@ func TestThereAndBack(t *testing.T) {
 			}
 			copy(b[at:], told)
 			all = append(all, laid{at, len(told), kind, data})
-			at += len(told) + s.below(12)*s.below(12)*s.below(12)
+			at += len(told) + s.Below(12)*s.Below(12)*s.Below(12)
 		}
 		for _, x := range all {
 			if data, f := Read(b, x.at, x.size, x.t); data != x.data || f != (api.Fault{}) {
@@ -315,9 +279,9 @@ func TestReadAndWrittenBack(t *testing.T) {
 
 // P6.5: lower forms are data of the type, have as many bytes, and lower ones are low.
 func TestLowerIsData(t *testing.T) {
-	s := newSource()
+	s := sample.New()
 	for range 5000 {
-		kind, data := anyData(s)
+		kind, data := s.Data()
 		low := Lower(kind, data)
 		if Check(kind, low) != api.OK || Lower(kind, low) != low || len(low) != len(data) || low != lowered(kind, data) {
 			t.Fatalf("Lower(%d, %q) = %q", kind, data, low)
@@ -334,9 +298,9 @@ func TestWrittenIsNew(t *testing.T) {
 	p, at := wire.New(), 0
 	var told [][]byte
 	var wanted []string
-	s := newSource()
+	s := sample.New()
 	for range 200 {
-		kind, data := anyData(s)
+		kind, data := s.Data()
 		b, _ := Write(p, at, kind, data)
 		told, wanted = append(told, b), append(wanted, string(b))
 		at += len(b)

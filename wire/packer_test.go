@@ -10,16 +10,8 @@ import (
 
 	"ostiary/api"
 	"ostiary/name"
+	"ostiary/sample"
 )
-
-// named puts labels together, whatever they are.
-func named(labels ...string) string {
-	n := ""
-	for _, l := range labels {
-		n += string([]byte{byte(len(l))}) + l
-	}
-	return n + "\x00"
-}
 
 // tail is a tail that is known, and its place.
 type tail struct {
@@ -453,13 +445,13 @@ func TestNameEachRow(t *testing.T) {
 }
 
 // anyName tells a name of a few labels that come often, now and then a long one.
-func anyName(s *source) string {
-	if s.below(20) == 0 {
-		return sized(254-2*s.below(120)) + "\x00"
+func anyName(s *sample.Source) string {
+	if s.Below(20) == 0 {
+		return sized(254-2*s.Below(120)) + "\x00"
 	}
 	var l []string
-	for range s.below(6) {
-		l = append(l, []string{"a", "b", "A", "www", "example", "\x00", "a\x01b", "\xc0\x0c", strings.Repeat("x", 63), string([]byte{byte(s.below(256))})}[s.below(10)])
+	for range s.Below(6) {
+		l = append(l, []string{"a", "b", "A", "www", "example", "\x00", "a\x01b", "\xc0\x0c", strings.Repeat("x", 63), string([]byte{byte(s.Below(256))})}[s.Below(10)])
 	}
 	n := named(l...)
 	if len(n) > 255 {
@@ -470,19 +462,19 @@ func anyName(s *source) string {
 
 // P5.4: names that a packer tells, laid at their places, are read there as they are, whatever stands between; and none has more bytes than the name.
 func TestNamesBack(t *testing.T) {
-	s := newSource()
+	s := sample.New()
 	for round := range 300 {
 		p, l := New(), &list{}
 		b := make([]byte, 66000)
 		for i := range b {
-			b[i] = byte(s.below(256))
+			b[i] = byte(s.Below(256))
 		}
 		type laid struct {
 			at, next int
 			n        string
 		}
 		var all []laid
-		for at := s.below(40); at <= 65535; {
+		for at := s.Below(40); at <= 65535; {
 			n := anyName(s)
 			told, e := p.Name(at, n)
 			want, f := l.tell(at, n)
@@ -491,7 +483,7 @@ func TestNamesBack(t *testing.T) {
 			}
 			copy(b[at:], told)
 			all = append(all, laid{at, at + len(told), n})
-			at += len(told) + s.below(12)*s.below(12)*s.below(12)
+			at += len(told) + s.Below(12)*s.Below(12)*s.Below(12)
 		}
 		for _, x := range all {
 			if got, want := read(b, x.at), (reading{n: x.n, next: x.next}); got != want {
@@ -565,7 +557,7 @@ func TestNameKeepsNothing(t *testing.T) {
 
 // P1: packers hang on what was done to them alone: two that are asked the same by turns tell the same.
 func TestNameByTurns(t *testing.T) {
-	s := newSource()
+	s := sample.New()
 	p, q, at := New(), New(), 0
 	for range 2000 {
 		n := anyName(s)
@@ -577,6 +569,6 @@ func TestNameByTurns(t *testing.T) {
 		if !bytes.Equal(one, two) || e != f || p.Known() != q.Known() {
 			t.Fatalf("Name(%d, %q) = %q, %v, and %q, %v", at, n, one, e, two, f)
 		}
-		at += len(one) + s.below(30)
+		at += len(one) + s.Below(30)
 	}
 }

@@ -9,22 +9,10 @@ import (
 
 	"ostiary/api"
 	"ostiary/name"
+	"ostiary/sample"
 )
 
-// source tells numbers, the same ones in each run.
-type source uint64
-
-func (s *source) below(n int) int {
-	*s ^= *s << 13
-	*s ^= *s >> 7
-	*s ^= *s << 17
-	return int(uint64(*s) >> 11 % uint64(n))
-}
-
-func newSource() *source {
-	s := source(88172645463325252)
-	return &s
-}
+var named, words = sample.Named, sample.Words
 
 // sized tells labels that have so many bytes, each with its length; there are none of 1.
 func sized(size int) string {
@@ -36,21 +24,6 @@ func sized(size int) string {
 		}
 		l += string([]byte{byte(take - 1)}) + strings.Repeat("x", take-1)
 		size -= take
-	}
-	return l
-}
-
-// words tells all texts of these letters up to so many.
-func words(letters string, most int) []string {
-	l := []string{""}
-	for from := 0; most > 0; most-- {
-		to := len(l)
-		for _, w := range l[from:to] {
-			for i := range len(letters) {
-				l = append(l, w+letters[i:i+1])
-			}
-		}
-		from = to
 	}
 	return l
 }
@@ -394,14 +367,14 @@ func TestReadManyPointers(t *testing.T) {
 // P5.5: at each place of any bytes Read ends; what it tells is a name, and beside a fault nothing is told, which lies in the bytes.
 func TestReadAnything(t *testing.T) {
 	const letters = "\x00\x00\x01\x01\x01\x02\x02\x03\x04\x3f\x40\xc0\xc0\xc0\xc0\xc1\xff"
-	s := newSource()
+	s := sample.New()
 	names := 0
 	for range 3000 {
-		b := make([]byte, s.below(600))
+		b := make([]byte, s.Below(600))
 		for i := range b {
-			b[i] = letters[s.below(len(letters))]
-			if s.below(3) == 0 {
-				b[i] = byte(s.below(256))
+			b[i] = letters[s.Below(len(letters))]
+			if s.Below(3) == 0 {
+				b[i] = byte(s.Below(256))
 			}
 		}
 		for at := range len(b) + 1 {
