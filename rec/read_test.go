@@ -34,24 +34,6 @@ type askCase struct {
 // wrong tells a fault.
 func wrong(e api.Errno, at int) api.Fault { return api.Fault{Err: e, At: at} }
 
-// word tells a number as so many bytes.
-func word(n, size int) string {
-	b := ""
-	for ; size > 0; size-- {
-		b = string([]byte{byte(n)}) + b
-		n /= 256
-	}
-	return b
-}
-
-// heading tells the bytes between a record's name and its data.
-func heading(t, class, ttl, size int) string {
-	return word(t, 2) + word(class, 2) + word(ttl, 4) + word(size, 2)
-}
-
-// plain tells a record's bytes, when no name is short.
-func plain(x api.Rec) string { return x.Name + heading(x.Type, x.Class, x.TTL, len(x.Data)) + x.Data }
-
 // number tells the number that some bytes are.
 func number(b []byte) int {
 	n := 0
@@ -94,19 +76,10 @@ func toldAsk(b []byte, at int) (api.Question, int, api.Fault) {
 	return api.Question{Name: n, Type: number(b[next : next+2]), Class: number(b[next+2 : next+4])}, next + 4, api.Fault{}
 }
 
-// rooms is messages with and without spare room, whose bytes would go on with what is there.
-func rooms(b string) [][]byte {
-	var l [][]byte
-	for _, room := range []int{0, 1, 24, 300} {
-		l = append(l, append([]byte(b), strings.Repeat("\x01a\x00", room)[:room]...)[:len(b)])
-	}
-	return l
-}
-
 // reads reads a record; what was handed in has to stay as it was.
 func reads(t *testing.T, c readCase) {
 	t.Helper()
-	for _, b := range rooms(c.b) {
+	for _, b := range sample.Rooms(c.b) {
 		was := slices.Clone(b[:cap(b)])
 		if x, end, f := Read(b, c.at); x != c.want || end != c.end || f != c.f {
 			t.Fatalf("Read(%.99q, %d) with room for %d = %.99v, %d, %v, not %.99v, %d, %v", c.b, c.at, cap(b)-len(b), x, end, f, c.want, c.end, c.f)
@@ -120,7 +93,7 @@ func reads(t *testing.T, c readCase) {
 // asks reads a question likewise.
 func asks(t *testing.T, c askCase) {
 	t.Helper()
-	for _, b := range rooms(c.b) {
+	for _, b := range sample.Rooms(c.b) {
 		was := slices.Clone(b[:cap(b)])
 		if q, end, f := Question(b, c.at); q != c.want || end != c.end || f != c.f {
 			t.Fatalf("Question(%.99q, %d) with room for %d = %v, %d, %v, not %v, %d, %v", c.b, c.at, cap(b)-len(b), q, end, f, c.want, c.end, c.f)

@@ -12,7 +12,10 @@ import (
 	"ostiary/sample"
 )
 
-var named, sized, filler = sample.Named, sample.Sized, sample.Filler
+var (
+	named, sized, filler = sample.Named, sample.Sized, sample.Filler
+	word, heading, plain = sample.Word, sample.Heading, sample.Plain
+)
 
 // good is data of each type that has its own, and of some that have not.
 func good() map[int][]string {

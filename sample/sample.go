@@ -1,7 +1,11 @@
-// Package sample tells names, data and numbers of which tests are made; nothing else asks for it.
+// Package sample tells names, data, records, messages and numbers of which tests are made; nothing else asks for it.
 package sample
 
-import "strings"
+import (
+	"strings"
+
+	"ostiary/api"
+)
 
 // Source tells numbers that look like chance, but are the same ones in each run. New makes it.
 type Source uint64
@@ -63,6 +67,31 @@ func (s *Source) Data() (int, string) {
 	}
 }
 
+// Question tells a question.
+func (s *Source) Question() api.Question {
+	return api.Question{Name: s.Name(), Type: s.Below(1 << 16), Class: s.Below(1 << 16)}
+}
+
+// Rec tells a record.
+func (s *Source) Rec() api.Rec {
+	t, data := s.Data()
+	return api.Rec{Name: s.Name(), Type: t, Class: s.Below(1 << 16), TTL: s.Below(1 << 31), Data: data}
+}
+
+// Message tells a message with up to three entries in each of its lists.
+func (s *Source) Message() api.Message {
+	m := api.Message{ID: s.Below(1 << 16), Flags: s.Below(1 << 16)}
+	for range s.Below(4) {
+		m.Q = append(m.Q, s.Question())
+	}
+	for _, l := range []*[]api.Rec{&m.An, &m.Ns, &m.Ar} {
+		for range s.Below(4) {
+			*l = append(*l, s.Rec())
+		}
+	}
+	return m
+}
+
 // texts tells one text or a few, each behind its length.
 func (s *Source) texts() string {
 	data := "\x00"
@@ -110,6 +139,33 @@ func Words(letters string, most int) []string {
 			}
 		}
 		from = to
+	}
+	return l
+}
+
+// Word tells a number as so many bytes, the highest first.
+func Word(n, size int) string {
+	b := ""
+	for ; size > 0; size-- {
+		b = string([]byte{byte(n)}) + b
+		n /= 256
+	}
+	return b
+}
+
+// Heading tells the bytes that stand in a message between a record's name and its data.
+func Heading(t, class, ttl, size int) string {
+	return Word(t, 2) + Word(class, 2) + Word(ttl, 4) + Word(size, 2)
+}
+
+// Plain tells a record's bytes, when no name is short.
+func Plain(x api.Rec) string { return x.Name + Heading(x.Type, x.Class, x.TTL, len(x.Data)) + x.Data }
+
+// Rooms tells the same bytes with and without spare room, in which others stand with which they could go on.
+func Rooms(b string) [][]byte {
+	var l [][]byte
+	for _, room := range []int{0, 1, 24, 300} {
+		l = append(l, append([]byte(b), strings.Repeat("\x01a\x00", room)[:room]...)[:len(b)])
 	}
 	return l
 }
