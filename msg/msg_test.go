@@ -17,6 +17,8 @@ import (
 var (
 	named, sized, filler = sample.Named, sample.Sized, sample.Filler
 	word, heading, plain = sample.Word, sample.Heading, sample.Plain
+	recs, same, none     = sample.Lists, sample.Same, sample.None
+	roomy, clone         = sample.Roomy, sample.Clone
 )
 
 // asked is the question of the chapter's examples.
@@ -43,39 +45,9 @@ func listed(list, n int) api.Message {
 	return m
 }
 
-// recs tells the lists of a message in which records stand.
-func recs(m *api.Message) []*[]api.Rec { return []*[]api.Rec{&m.An, &m.Ns, &m.Ar} }
-
-// same tells whether two messages are the same; nil lists and empty ones are.
-func same(a, b api.Message) bool {
-	return a.ID == b.ID && a.Flags == b.Flags && slices.Equal(a.Q, b.Q) && slices.Equal(a.An, b.An) && slices.Equal(a.Ns, b.Ns) && slices.Equal(a.Ar, b.Ar)
-}
-
-// none tells whether a message is the zero one.
-func none(m api.Message) bool {
-	return same(m, api.Message{}) && m.Q == nil && m.An == nil && m.Ns == nil && m.Ar == nil
-}
-
 // short tells a message in few words, for what a test says.
 func short(m api.Message) string {
 	return fmt.Sprintf("%d %d, %d questions %.200v, %d, %d, %d records %.200v %.200v %.200v", m.ID, m.Flags, len(m.Q), m.Q, len(m.An), len(m.Ns), len(m.Ar), m.An, m.Ns, m.Ar)
-}
-
-// roomy tells a message as it is, behind whose entries there is room in which bad ones stand, and all that is there.
-func roomy(m api.Message) (api.Message, api.Message) {
-	all := api.Message{ID: m.ID, Flags: m.Flags, Q: append(slices.Clone(m.Q), api.Question{Name: "bad"}, api.Question{Type: -1})}
-	m.Q = all.Q[:len(m.Q)]
-	for i, l := range recs(&m) {
-		*recs(&all)[i] = append(slices.Clone(*l), api.Rec{Name: "bad"}, api.Rec{Type: -1})
-		*l = (*recs(&all)[i])[:len(*l)]
-	}
-	return m, all
-}
-
-// clone tells a message whose lists are its own.
-func clone(m api.Message) api.Message {
-	m.Q, m.An, m.Ns, m.Ar = slices.Clone(m.Q), slices.Clone(m.An), slices.Clone(m.Ns), slices.Clone(m.Ar)
-	return m
 }
 
 // checked tells what Check is to tell: all errors in their order, of which the first one counts.

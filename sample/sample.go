@@ -78,20 +78,6 @@ func (s *Source) Rec() api.Rec {
 	return api.Rec{Name: s.Name(), Type: t, Class: s.Below(1 << 16), TTL: s.Below(1 << 31), Data: data}
 }
 
-// Message tells a message with up to three entries in each of its lists.
-func (s *Source) Message() api.Message {
-	m := api.Message{ID: s.Below(1 << 16), Flags: s.Below(1 << 16)}
-	for range s.Below(4) {
-		m.Q = append(m.Q, s.Question())
-	}
-	for _, l := range []*[]api.Rec{&m.An, &m.Ns, &m.Ar} {
-		for range s.Below(4) {
-			*l = append(*l, s.Rec())
-		}
-	}
-	return m
-}
-
 // texts tells one text or a few, each behind its length.
 func (s *Source) texts() string {
 	data := "\x00"
