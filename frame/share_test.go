@@ -58,7 +58,7 @@ func TestPiecesStay(t *testing.T) {
 		l := []string{random.Bytes(12 + random.Below(80)), random.Bytes(12 + random.Below(80)), random.Bytes(12 + random.Below(80))}
 		r := reader(t, 91)
 		var got [][]byte
-		for _, piece := range cuts(random, framed(l...), 1+random.Below(150)) {
+		for _, piece := range random.Cuts(framed(l...), 1+random.Below(150)) {
 			rooms := sample.Rooms(piece)
 			b := rooms[random.Below(len(rooms))]
 			ahead := slices.Clone(b[:cap(b)])
@@ -85,7 +85,7 @@ func TestMessagesAreNew(t *testing.T) {
 		}
 		r := reader(t, 111)
 		var got [][]byte
-		for _, piece := range cuts(random, framed(l...), 1+random.Below(250)) {
+		for _, piece := range random.Cuts(framed(l...), 1+random.Below(250)) {
 			told, _ := r.Push([]byte(piece))
 			for _, m := range told {
 				empty(t, m)
@@ -148,7 +148,7 @@ func TestSideBySide(t *testing.T) {
 		for range 30 {
 			x.want = append(x.want, random.Bytes(12+random.Below(60)))
 		}
-		x.pieces = cuts(random, framed(x.want...), 30)
+		x.pieces = random.Cuts(framed(x.want...), 30)
 		all = append(all, x)
 	}
 	for left := true; left; {

@@ -79,28 +79,11 @@ func stream(random *sample.Source, most int) string {
 	return s[:len(s)-random.Below(min(len(s), 20)+1)]
 }
 
-// cuts cuts a stream into pieces of up to so many bytes, some of them of none.
-func cuts(random *sample.Source, s string, most int) []string {
-	var l []string
-	for s != "" {
-		n := min(len(s), random.Below(most+1))
-		l, s = append(l, s[:n]), s[n:]
-	}
-	return append(l, "")
-}
-
 // P12.4: short streams, whole and broken ones, cut in each way in which they can be.
 func TestEachWayToCut(t *testing.T) {
 	for _, s := range []string{framed("abcdefghijkl") + "\x00", framed("abcdefghijkl") + "\x00\x0c", framed("\x00\x00\x00\x00\x00\x00\x00\x00\x00\x00\x00\x00") + "\x00\x0b", framed("abcdefghijklm") + "\x00", "\x00\x0babcdefghi", "\x00\x0eabcdefghi"} {
 		for ways := range 1 << (len(s) - 1) {
-			var pieces []string
-			from := 0
-			for at := 1; at < len(s); at++ {
-				if ways>>(at-1)&1 == 1 {
-					pieces, from = append(pieces, s[from:at]), at
-				}
-			}
-			goes(t, 13, append(pieces, s[from:])...)
+			goes(t, 13, sample.CutAt(s, ways)...)
 		}
 	}
 }
@@ -130,11 +113,7 @@ func TestEachPieceLength(t *testing.T) {
 	}
 	for _, s := range []string{framed(l...), framed(l...) + "\x00\x05mmmmm", framed(l[:20]...) + "\x00\x3c" + framed(l[20:]...)} {
 		for size := 1; size < 130; size++ {
-			var pieces []string
-			for at := 0; at < len(s); at += size {
-				pieces = append(pieces, s[at:min(at+size, len(s))])
-			}
-			goes(t, 59, pieces...)
+			goes(t, 59, sample.CutEach(s, size)...)
 		}
 		goes(t, 59, s)
 	}
@@ -148,7 +127,7 @@ func TestManyStreams(t *testing.T) {
 		s := stream(random, most)
 		goes(t, most, s)
 		for _, longest := range []int{1, 3, 20, 200} {
-			goes(t, most, cuts(random, s, longest)...)
+			goes(t, most, random.Cuts(s, longest)...)
 		}
 	}
 }
@@ -167,7 +146,7 @@ func TestAnyBytes(t *testing.T) {
 		if random.Below(4) == 0 {
 			most = 65535
 		}
-		goes(t, most, cuts(random, string(b), 1+random.Below(40))...)
+		goes(t, most, random.Cuts(string(b), 1+random.Below(40))...)
 	}
 }
 
@@ -192,7 +171,7 @@ func TestFramesBack(t *testing.T) {
 	for _, longest := range []int{1, 2, 13, 1000, 70000, 200000} {
 		r := reader(t, 65535)
 		var got [][]byte
-		for _, piece := range cuts(random, string(s), longest) {
+		for _, piece := range random.Cuts(string(s), longest) {
 			told, e := r.Push([]byte(piece))
 			if e != api.OK || r.Left() > 65536 {
 				t.Fatal(longest, e, r.Left())
