@@ -164,39 +164,18 @@ func TestWrittenLonger(t *testing.T) {
 // P13.6: heads that are written are parsed as they were, whatever they have.
 func TestHeadsBack(t *testing.T) {
 	random := sample.New()
-	letters := ""
-	for x := range 256 {
-		if isLetter(x) {
-			letters += one(x)
-		}
-	}
-	some := func(from string, least, most int) string {
-		b := make([]byte, least+random.Below(most-least+1))
-		for i := range b {
-			b[i] = from[random.Below(len(from))]
-		}
-		return string(b)
-	}
-	var targets, values strings.Builder
-	for x := range 256 {
-		if inTarget(x) {
-			targets.WriteByte(byte(x))
-		}
-		if inValue(x) {
-			values.WriteByte(byte(x))
-		}
-	}
+	letters, targets := sample.All(sample.InName), sample.All(inTarget)
 	for range 20000 {
-		h := api.Head{Method: some(letters, 1, 16), Target: "/" + some(targets.String(), 0, 80), Minor: random.Below(2)}
+		h := api.Head{Method: random.Of(letters, 1+random.Below(16)), Target: "/" + random.Of(targets, random.Below(81)), Minor: random.Below(2)}
 		if random.Below(10) == 0 {
-			h.Target = "/" + some(targets.String(), 1900, 2047)
+			h.Target = "/" + random.Of(targets, 1900+random.Below(148))
 		}
 		fields := random.Below(6) + random.Below(2)*random.Below(27)
 		host := random.Below(fields + 1)
 		for i := range fields + h.Minor {
-			f := api.Field{Name: some(letters, 1, 12), Value: strings.Trim(some(values.String(), 0, 40), " \t")}
+			f := random.Field(12, 40)
 			if random.Below(20) == 0 {
-				f.Name = some(letters, 60, 64)
+				f.Name = random.Of(letters, 60+random.Below(5))
 			}
 			if i == host && h.Minor == 1 {
 				f.Name = "hoSt"

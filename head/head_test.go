@@ -8,6 +8,7 @@ import (
 	"testing"
 
 	"ostiary/api"
+	"ostiary/sample"
 )
 
 // with tells the head GET / of a minor number, with fields, each a name and a value.
@@ -86,21 +87,8 @@ func refuses(t *testing.T, s string, status int) {
 // asWritten tells the bytes of a text in which lines' ends are ; as the chapter writes them.
 func asWritten(s string) string { return strings.ReplaceAll(s, ";", "\r\n") }
 
-// isLetter tells a word's letters, as the chapter names them.
-func isLetter(x int) bool {
-	switch {
-	case '0' <= x && x <= '9', 'A' <= x && x <= 'Z', 'a' <= x && x <= 'z':
-		return true
-	default:
-		return slices.Contains([]int{33, 35, 36, 37, 38, 39, 42, 43, 45, 46, 94, 95, 96, 124, 126}, x)
-	}
-}
-
 // inTarget tells a target's bytes.
 func inTarget(x int) bool { return x >= 33 && x <= 126 }
-
-// inValue tells a value's bytes.
-func inValue(x int) bool { return x == 9 || x >= 32 && x != 127 }
 
 // one tells a byte as text.
 func one(x int) string { return string([]byte{byte(x)}) }
@@ -125,7 +113,7 @@ func TestWrite(t *testing.T) {
 func TestMethodBytes(t *testing.T) {
 	for x := range 256 {
 		for _, s := range []string{one(x), one(x) + "b", "a" + one(x), "a" + one(x) + "b"} {
-			mays(t, api.Head{Method: s, Target: "/"}, isLetter(x))
+			mays(t, api.Head{Method: s, Target: "/"}, sample.InName(x))
 		}
 	}
 }
@@ -146,8 +134,8 @@ func TestTargetBytes(t *testing.T) {
 func TestNameBytes(t *testing.T) {
 	for x := range 256 {
 		for _, s := range []string{one(x), one(x) + "b", "a" + one(x), "a" + one(x) + "b"} {
-			mays(t, with(0, s, "v"), isLetter(x))
-			mays(t, with(1, "host", "", s, "v", "z", ""), isLetter(x))
+			mays(t, with(0, s, "v"), sample.InName(x))
+			mays(t, with(1, "host", "", s, "v", "z", ""), sample.InName(x))
 		}
 	}
 }
@@ -155,11 +143,11 @@ func TestNameBytes(t *testing.T) {
 // P13.1: each byte in a field's value, at its beginning, within and at its end.
 func TestValueBytes(t *testing.T) {
 	for x := range 256 {
-		mays(t, with(0, "n", "a"+one(x)+"b"), inValue(x))
-		mays(t, with(1, "host", "a"+one(x)+one(x)+"b"), inValue(x))
+		mays(t, with(0, "n", "a"+one(x)+"b"), sample.InValue(x))
+		mays(t, with(1, "host", "a"+one(x)+one(x)+"b"), sample.InValue(x))
 		for _, s := range []string{one(x), one(x) + "b", "a" + one(x)} {
-			mays(t, with(0, "n", s), inValue(x) && x != 9 && x != 32)
-			mays(t, with(0, "m", "", "n", s, "o", ""), inValue(x) && x != 9 && x != 32)
+			mays(t, with(0, "n", s), sample.InValue(x) && x != 9 && x != 32)
+			mays(t, with(0, "m", "", "n", s, "o", ""), sample.InValue(x) && x != 9 && x != 32)
 		}
 	}
 }

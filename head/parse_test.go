@@ -6,6 +6,7 @@ import (
 	"testing"
 
 	"ostiary/api"
+	"ostiary/sample"
 )
 
 // The chapter's examples of Parse.
@@ -130,18 +131,18 @@ func TestVersions(t *testing.T) {
 
 // P13.2: each byte in a method, in a target, in a name, in a value, and ahead of and behind a value.
 func TestParsedBytes(t *testing.T) {
-	colonToo := func(x int) bool { return isLetter(x) || x == ':' }
+	colonToo := func(x int) bool { return sample.InName(x) || x == ':' }
 	slash := func(x int) bool { return x == '/' }
 	for _, row := range []struct {
 		is    func(x int) bool
 		lines []string
 	}{
-		{isLetter, []string{"@ / HTTP/1.0;;", "@ET / HTTP/1.0;;", "G@T / HTTP/1.0;;", "GE@ / HTTP/1.0;;"}},
+		{sample.InName, []string{"@ / HTTP/1.0;;", "@ET / HTTP/1.0;;", "G@T / HTTP/1.0;;", "GE@ / HTTP/1.0;;"}},
 		{inTarget, []string{"GET /@ HTTP/1.0;;", "GET /@a HTTP/1.0;;"}},
 		{slash, []string{"GET @ HTTP/1.0;;", "GET @/ HTTP/1.0;;", "GET @a HTTP/1.0;;"}},
-		{isLetter, []string{"GET / HTTP/1.0;@:v;;", "GET / HTTP/1.0;@n:v;;", "GET / HTTP/1.0;a:b;@n: v;c:d;;"}},
+		{sample.InName, []string{"GET / HTTP/1.0;@:v;;", "GET / HTTP/1.0;@n:v;;", "GET / HTTP/1.0;a:b;@n: v;c:d;;"}},
 		{colonToo, []string{"GET / HTTP/1.0;n@:v;;", "GET / HTTP/1.0;n@n: v;;"}},
-		{inValue, []string{"GET / HTTP/1.0;n:@;;", "GET / HTTP/1.0;n:@v;;", "GET / HTTP/1.0;n: @v;;", "GET / HTTP/1.0;n:v@;;", "GET / HTTP/1.0;n:v@\t;;", "GET / HTTP/1.0;n: a@b;;", "GET / HTTP/1.0;n: @ ;o:;;", "GET / HTTP/1.0;n: \xe2@\x80;;"}},
+		{sample.InValue, []string{"GET / HTTP/1.0;n:@;;", "GET / HTTP/1.0;n:@v;;", "GET / HTTP/1.0;n: @v;;", "GET / HTTP/1.0;n:v@;;", "GET / HTTP/1.0;n:v@\t;;", "GET / HTTP/1.0;n: a@b;;", "GET / HTTP/1.0;n: @ ;o:;;", "GET / HTTP/1.0;n: \xe2@\x80;;"}},
 	} {
 		for _, line := range row.lines {
 			for x := range 256 {

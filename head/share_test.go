@@ -11,13 +11,6 @@ import (
 	"ostiary/sample"
 )
 
-// roomy tells a head as it is, behind whose fields there is room in which bad ones stand, and all that is there.
-func roomy(h api.Head) (api.Head, []api.Field) {
-	all := append(slices.Clone(h.Fields), api.Field{Name: "host", Value: "\x00"}, api.Field{Name: "content-length", Value: "x"}, api.Field{Name: "connection", Value: "close"}, api.Field{})
-	h.Fields = all[:len(h.Fields)]
-	return h, slices.Clone(all)
-}
-
 // stays holds that neither a head's fields nor the room behind them are otherwise than they were.
 func stays(t *testing.T, h api.Head, all []api.Field) {
 	t.Helper()
@@ -37,8 +30,9 @@ func turn(b []byte) {
 // Rule 4: a head that is handed in stays as it is, its room too, which is not looked at; what is told of it is new.
 func TestHeadsStay(t *testing.T) {
 	for _, h := range []api.Head{with(0), with(1, "Host", "x"), with(1, "Host", "x", "content-length", "5", "connection", "keep-alive"), with(0, "a", "b", "connection", "keep-alive", "c", "d"), with(1), with(0, "", ""), with(3, "a", "b")} {
-		h, all := roomy(h)
-		want := api.Head{Method: h.Method, Target: h.Target, Minor: h.Minor, Fields: slices.Clone(h.Fields)}
+		want := h
+		var all []api.Field
+		h.Fields, all = sample.RoomyFields(h.Fields)
 		_, hosts := Field(h, "host")
 		_, others := Field(want, "host")
 		size, sizeStatus := Length(h)

@@ -217,33 +217,24 @@ func TestAnyBytes(t *testing.T) {
 	}
 }
 
-// wordOf tells a text of so many letters of these.
-func wordOf(random *sample.Source, letters string, n int) string {
-	b := make([]byte, n)
-	for i := range b {
-		b[i] = letters[random.Below(len(letters))]
-	}
-	return string(b)
-}
-
 // written tells a request behind which others may come, and its bytes: its head as head writes it, its body behind it.
 func written(t *testing.T, random *sample.Source) (api.Item, string) {
 	t.Helper()
 	x := api.Item{Status: 200, Keep: true}
-	x.Head = api.Head{Method: []string{"GET", "POST", "PUT", "get"}[random.Below(4)], Target: "/" + wordOf(random, "!/?&=aZ~:", random.Below(60)), Minor: random.Below(2)}
+	x.Head = api.Head{Method: []string{"GET", "POST", "PUT", "get"}[random.Below(4)], Target: "/" + random.Of("!/?&=aZ~:", random.Below(60)), Minor: random.Below(2)}
 	fields := []api.Field{}
 	if x.Head.Minor == 1 {
-		fields = append(fields, api.Field{Name: "hoSt", Value: wordOf(random, "x.9", random.Below(9))})
+		fields = append(fields, api.Field{Name: "hoSt", Value: random.Of("x.9", random.Below(9))})
 	} else {
 		fields = append(fields, api.Field{Name: "connection", Value: "a,Keep-Alive"})
 	}
 	if x.Head.Method == "POST" || random.Below(2) == 0 {
 		size := []int{0, 1, 2, 4, random.Below(100), random.Below(5000), random.Below(65536)}[random.Below(7)]
-		x.Body = []byte(wordOf(random, "\r\n\x00\xffb", size))
+		x.Body = []byte(random.Of("\r\n\x00\xffb", size))
 		fields = append(fields, api.Field{Name: "Content-Length", Value: strconv.Itoa(size)})
 	}
 	for range random.Below(4) {
-		fields = append(fields, api.Field{Name: "x-" + wordOf(random, "an-", random.Below(20)), Value: wordOf(random, "v:;\xff", random.Below(300))})
+		fields = append(fields, api.Field{Name: "x-" + random.Of("an-", random.Below(20)), Value: random.Of("v:;\xff", random.Below(300))})
 	}
 	for len(fields) > 0 {
 		i := random.Below(len(fields))

@@ -1,4 +1,4 @@
-// Package sample tells names, data, records, messages, numbers and pieces of streams of which tests are made; nothing else asks for it.
+// Package sample tells names, data, records, messages, fields, numbers and pieces of streams of which tests are made; nothing else asks for it.
 package sample
 
 import (
